@@ -107,6 +107,50 @@ func fabricsOfWrongTxns() []wrongFabric {
 	return s.out
 }
 
+// fabricOfTxn has that many empty Rings, and the one Txn.
+func fabricOfTxn(rings int, x impl.Txn) impl.Fabric {
+	f := emptyFabric(rings, 4)
+	f.Epochs[0] = 1
+	f.Txns = []impl.Txn{x}
+	return f
+}
+
+// txnsOfRings have each Rings that there may be, in each State, and of those
+// that ended all of them Left, the last one, or none.
+func txnsOfRings() []impl.Txn {
+	var out []impl.Txn
+	for mask := range 16 {
+		rings := ringsOf(mask)
+		out = append(out, impl.Txn{Producer: 1, Epoch: 1, State: impl.TxOpen, Until: 5, Rings: rings})
+		for _, state := range []int64{impl.TxCommit, impl.TxAbort} {
+			for _, left := range [][]int64{nil, rings, rings[max(len(rings)-1, 0):]} {
+				out = append(out, impl.Txn{Producer: 1, Epoch: 1, State: state, Until: 5, Rings: rings, Left: slices.Clone(left)})
+			}
+		}
+	}
+	return out
+}
+
+// fabricsOfRingsNotThere have a Txn with a Ring that the fabric has not.
+func fabricsOfRingsNotThere() []wrongFabric {
+	s := &spoiler{good: busyFabric()}
+	for at, x := range s.good.Txns {
+		s.with(fmt.Sprint("a Txn has Ring 3 of three, State ", x.State), func(f *impl.Fabric) { f.Txns[at].Rings = append(f.Txns[at].Rings, 3) })
+	}
+	s.with("Ring 3 of three is Left", func(f *impl.Fabric) {
+		f.Txns[1].Rings = append(f.Txns[1].Rings, 3)
+		f.Txns[1].Left = append(f.Txns[1].Left, 3)
+	})
+	s.with("the last Ring is not there", func(f *impl.Fabric) { f.Rings = f.Rings[:2] })
+	s.good = fullFabric(2)
+	s.with("the last Ring of four is not there", func(f *impl.Fabric) { f.Rings = f.Rings[:3] })
+	s.good = fabricOfTxn(1, impl.Txn{Producer: 1, Epoch: 1, State: impl.TxAbort, Until: 5, Rings: []int64{1}, Left: []int64{1}})
+	s.with("Ring 1 of one is Left", func(f *impl.Fabric) {})
+	s.with("Ring 1 of one, TxOpen", func(f *impl.Fabric) { f.Txns[0].State, f.Txns[0].Left = impl.TxOpen, nil })
+	s.with("Ring 1 of one, said everywhere", func(f *impl.Fabric) { f.Txns[0].Left = nil })
+	return s.out
+}
+
 func fabricsOfWrongRecs() []wrongFabric {
 	s := &spoiler{good: busyFabric()}
 	for _, number := range []int64{6, 7, 12, 13, impl.MaxTime} {
@@ -153,12 +197,12 @@ func fabricsWithoutRoom() []wrongFabric {
 }
 
 func wrongFabrics() []wrongFabric {
-	return slices.Concat(fabricsOfWrongSizes(), fabricsOfWrongParts(), fabricsOfWrongTxns(), fabricsOfWrongRecs(), fabricsWithoutRoom())
+	return slices.Concat(fabricsOfWrongSizes(), fabricsOfWrongParts(), fabricsOfWrongTxns(), fabricsOfRingsNotThere(), fabricsOfWrongRecs(), fabricsWithoutRoom())
 }
 
 // fewWrongFabrics are enough where many calls are made of each.
 func fewWrongFabrics() []wrongFabric {
-	return slices.Concat(fabricsOfWrongSizes()[:3], fabricsOfWrongTxns(), fabricsOfWrongRecs(), fabricsWithoutRoom()[:4])
+	return slices.Concat(fabricsOfWrongSizes()[:3], fabricsOfWrongTxns(), fabricsOfRingsNotThere(), fabricsOfWrongRecs(), fabricsWithoutRoom()[:4])
 }
 
 func TestFabricConstants(t *testing.T) {
@@ -272,6 +316,8 @@ func changeTxn(dice *rand.Rand, x *impl.Txn, n int64) {
 	}
 }
 
+// Of what is right, however it came about, all that is open can be ended, and
+// all that ended be said.
 func TestFabricRightByChance(t *testing.T) {
 	dice := rand.New(rand.NewSource(6))
 	starts := rightFabrics()
@@ -287,6 +333,7 @@ func TestFabricRightByChance(t *testing.T) {
 		}
 		if want {
 			seen[1]++
+			holdsRoom(t, f, i%2 == 0)
 		} else {
 			seen[0]++
 		}
@@ -296,18 +343,27 @@ func TestFabricRightByChance(t *testing.T) {
 	}
 }
 
-// Chapter 6: the Rings of a Txn are numbers from 0 to 3, whether the fabric has
-// so many or not.
+// Promise 6: all that is right can be ended, and said to have ended: so a Txn
+// has no Ring among its Rings that the fabric has not, however it may end.
 func TestTxnOfARingThatIsNotThere(t *testing.T) {
-	f := emptyFabric(1, 4)
-	f.Epochs[0] = 1
-	f.Txns = []impl.Txn{{Producer: 1, Epoch: 1, State: impl.TxCommit, Rings: []int64{0, 2}, Left: []int64{0, 2}}}
-	same(t, "FabricRight", impl.FabricRight(f), true)
-	same(t, "Owed there", impl.Owed(f, 0), 1)
-	same(t, "Owed where no Ring is", impl.Owed(f, 2), 0)
-	helped := impl.Help(f)
-	same(t, "Help there", helped.N, 1)
-	fabricRefused(t, "Help where no Ring is", impl.Help(helped.Fabric), impl.ErrForm)
+	for rings := 1; rings <= impl.MaxRings; rings++ {
+		for _, x := range txnsOfRings() {
+			f := fabricOfTxn(rings, x)
+			there := len(x.Rings) == 0 || slices.Max(x.Rings) < int64(rings)
+			same(t, fmt.Sprint(rings, " Rings: ", x), impl.FabricRight(f), there)
+			eachHelpAndTick(f, there, func(what string, got, want impl.FabricOut) {
+				sameFabric(t, fmt.Sprint(rings, " Rings: ", x, ": ", what), got, want)
+			})
+			if !there {
+				same(t, "OpenOf", impl.OpenOf(f, 1), 0)
+				same(t, "Owed", impl.Owed(f, 0), 0)
+				continue
+			}
+			holdsRoom(t, f, true)
+			holdsRoom(t, impl.Init(f, 1).Fabric, true)
+			holdsRoom(t, impl.Tick(f, 5).Fabric, true)
+		}
+	}
 }
 
 func TestFabricNew(t *testing.T) {

@@ -44,6 +44,9 @@ func fabricIsRight(f impl.Fabric) bool {
 		if !impl.TxnRight(x) || x.Epoch > f.Epochs[x.Producer-1] {
 			return false
 		}
+		if len(x.Rings) > 0 && slices.Max(x.Rings) >= int64(len(f.Rings)) {
+			return false
+		}
 		if x.State == impl.TxOpen {
 			open[x.Producer]++
 			if open[x.Producer] > 1 || x.Epoch < f.Epochs[x.Producer-1] || x.Until <= f.Now {
