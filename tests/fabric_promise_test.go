@@ -16,6 +16,7 @@ type walker struct {
 	dice *rand.Rand
 	now  impl.Fabric
 	went map[string]int
+	sent int
 }
 
 func (w *walker) take(what string, got, want impl.FabricOut) {
@@ -41,26 +42,34 @@ func (w *walker) epoch(producer int64) int64 {
 }
 
 func (w *walker) step() {
+	if w.dice.Intn(20) < 17 {
+		w.tell()
+	} else {
+		w.pass(w.dice.Int63n(int64(len(w.now.Rings))))
+	}
+}
+
+// tell is a step of those who tell, or of time.
+func (w *walker) tell() {
 	f, producer := w.now, 1+w.dice.Int63n(4)
 	epoch, ring := w.epoch(producer), w.dice.Int63n(int64(len(f.Rings))+1)
-	switch n := w.dice.Intn(20); {
+	switch n := w.dice.Intn(17); {
 	case n < 1:
 		w.take("Init", impl.Init(f, producer), wantInit(f, true, producer))
 	case n < 5:
 		life := w.dice.Int63n(30)
 		w.take("Begin", impl.Begin(f, producer, epoch, life), wantBegin(f, true, producer, epoch, life))
 	case n < 13:
-		w.send(producer, epoch, ring, fmt.Sprint(n, "/", ring))
+		w.sent++
+		w.send(producer, epoch, ring, fmt.Sprint(w.sent, "/", ring))
 	case n < 14:
 		commit := w.dice.Intn(2) == 0
 		w.take("End", impl.End(f, producer, epoch, commit), wantEnd(f, true, producer, epoch, commit))
 	case n < 16:
 		w.take("Help", impl.Help(f), wantHelp(f, true))
-	case n < 17:
+	default:
 		by := w.dice.Int63n(12) - 1
 		w.take("Tick", impl.Tick(f, by), wantTick(f, true, by))
-	default:
-		w.hear(ring % int64(len(f.Rings)))
 	}
 }
 
@@ -77,8 +86,8 @@ func (w *walker) send(producer, epoch, ring int64, data string) {
 	}
 }
 
-// hear lets a group pass what is there, so that the rings do not stay full.
-func (w *walker) hear(ring int64) {
+// pass lets a group pass what is there, so that the rings do not stay full.
+func (w *walker) pass(ring int64) {
 	group := 1 + w.dice.Int63n(3)
 	r := w.now.Rings[ring]
 	out := impl.Follow(r, group)
